@@ -10,7 +10,7 @@ type chart struct {
 	alone  int                                           // the tasks from this one on have no bonds with each other
 	weight [api.MaxTasks][api.MaxTasks]int               // how much a task and an earlier one exchange
 	times  [api.MaxHosts][api.MaxHosts]int               // how often a weight counts between two hosts
-	owed   [api.MaxTasks + 1]int                         // what the talks of the tasks from this one on cost at least
+	owed   [api.MaxTasks + 1]int                         // what the talks between tasks from this one on cost at least
 }
 
 // newChart returns the chart of a problem.
@@ -25,8 +25,8 @@ func newChart(p api.Problem) *chart {
 	}
 	for task := len(p.Tasks) - 1; task >= 0; task-- {
 		c.owed[task] = c.owed[task+1]
-		for earlier, weight := range c.weight[task][:task] {
-			c.owed[task] += weight * c.leastTimes(earlier, task)
+		for later := task + 1; later < len(p.Tasks); later++ {
+			c.owed[task] += c.weight[later][task] * c.leastTimes(task, later)
 		}
 	}
 	return c
@@ -87,17 +87,4 @@ func (c *chart) keep(kind, a, b int) bool {
 		return a == b
 	}
 	return c.Hosts[a].Zone != c.Hosts[b].Zone
-}
-
-// leastTimes returns how often the weight between two tasks counts at least, wherever they may go.
-func (c *chart) leastTimes(earlier, later int) int {
-	least := 2
-	for i := range c.Hosts {
-		for k := range c.Hosts {
-			if c.may[earlier].has(i) && (c.may[later] & c.lets[earlier][i][later]).has(k) {
-				least = min(least, c.times[i][k])
-			}
-		}
-	}
-	return least
 }

@@ -63,6 +63,21 @@ func TestLateCosts(t *testing.T) {
 	want(t, "Repair of a plan that is good", results(plan, moved, e), results([]int{5, 5, 5, 5, 5, 1, 2, 1, 2, 1}, 0, api.OK))
 }
 
+// P3.4: a last task that all others talk with, or that has to go to a host with a high price.
+func TestLastTask(t *testing.T) {
+	p := large(9)
+	for i := range p.Hosts {
+		p.Hosts[i].Price = 0
+	}
+	for i := range 9 {
+		p.Talks = append(p.Talks, api.Talk{A: 9, B: i, Weight: 1})
+	}
+	want(t, "Best with a hub", bestOf(p), results([]int{0, 0, 0, 0, 0, 0, 0, 0, 1, 0}, 2, api.OK))
+	p = bound(large(9), api.Bind{Kind: api.Fixed, A: 9, B: 0}, api.Bind{Kind: api.Barred, A: 8, B: 5})
+	p.Hosts[0].Price = api.MaxCost
+	want(t, "Best with a price", bestOf(p), results([]int{0, 0, 0, 0, 0, 0, 0, 5, 0, 0}, api.MaxCost+10, api.OK))
+}
+
 // P3.8: a conflict of the last tasks, behind bonds that have nothing to do with it.
 func TestLateConflict(t *testing.T) {
 	p := plain(api.MaxTasks, api.MaxHosts)

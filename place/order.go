@@ -56,10 +56,10 @@ func firstPlans(p api.Problem, most int, home []int) []plan {
 	return f.kept
 }
 
-// soonest returns what no plan that begins so comes before; of a whole plan, the plan itself.
+// soonest returns what no plan comes before that begins so, and is allowed; of a whole plan, the plan itself.
 // The tasks that are left are put on the host 0, before which there is none.
 func (c *chart) soonest(b beginning, home []int) plan {
-	return plan{b.moved(home), b.bound + c.owed[b.placed], b.hosts}
+	return plan{b.moved(home), b.bound + c.least(b), b.hosts}
 }
 
 // moved returns how many tasks are not at home, or may not go there.
